@@ -193,16 +193,25 @@ func canPlayOn(w string, moves []Move) bool {
 	return IsLine(w) && len(moves) <= maxMoves
 }
 
-// playOn makes moves as long as they can be made; it returns the line behind these, and how many they are.
-func playOn(w string, moves []Move) (string, int) {
+// playOn makes moves, each by a function that fails if it cannot be made, as long as they can be; it returns the line behind these, and how many they are.
+func playOn(w string, moves []Move, makeOne func(string, Move) (string, bool)) (string, int) {
 	for k, m := range moves {
-		p := play{m, w}
-		if !p.canBeMade() {
+		behind, ok := makeOne(w, m)
+		if !ok {
 			return w, k
 		}
-		w = p.lineBehind()
+		w = behind
 	}
 	return w, len(moves)
+}
+
+// playAll fails if one of the moves cannot be made.
+func playAll(w string, moves []Move, makeOne func(string, Move) (string, bool)) (string, bool) {
+	behind, made := playOn(w, moves, makeOne)
+	if made < len(moves) {
+		return "", false
+	}
+	return behind, true
 }
 
 // PlayMoves returns the line behind all moves, one after the other. It fails if one of them cannot be made.
@@ -210,11 +219,7 @@ func PlayMoves(w string, moves []Move) (string, bool) {
 	if !canPlayOn(w, moves) {
 		return "", false
 	}
-	line, made := playOn(w, moves)
-	if made < len(moves) {
-		return "", false
-	}
-	return line, true
+	return playAll(w, moves, MakeMove)
 }
 
 // MoveThatFails returns the index of the first move that cannot be made. It fails if all can.
@@ -222,7 +227,7 @@ func MoveThatFails(w string, moves []Move) (int, bool) {
 	if !canPlayOn(w, moves) {
 		return 0, false
 	}
-	_, made := playOn(w, moves)
+	_, made := playOn(w, moves, MakeMove)
 	if made == len(moves) {
 		return 0, false
 	}

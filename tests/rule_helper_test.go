@@ -146,6 +146,11 @@ func (b ruleBook) stepsTo(v string, lines []string) map[string]int {
 			before[c.behind] = append(before[c.behind], w)
 		}
 	}
+	return stepsBack(v, before)
+}
+
+// stepsBack tells, of all lines from which v is reached, how few moves lead there, out of the lines before each one.
+func stepsBack(v string, before map[string][]string) map[string]int {
 	steps := map[string]int{v: 0}
 	level := []string{v}
 	for moves := 1; len(level) > 0; moves++ {
@@ -165,9 +170,14 @@ func (b ruleBook) stepsTo(v string, lines []string) map[string]int {
 
 // firstWay makes the first move each time behind which a step less is left; it requires that the end of the steps is reached from w.
 func (b ruleBook) firstWay(w string, steps map[string]int) []impl.Move {
+	return firstByStep(w, steps, b.changesOf)
+}
+
+// firstByStep makes the first one of the changes of a line each time behind which a step less is left.
+func firstByStep(w string, steps map[string]int, changesOf func(string) []change) []impl.Move {
 	var moves []impl.Move
 	for left := steps[w] - 1; left >= 0; left-- {
-		for _, c := range b.changesOf(w) {
+		for _, c := range changesOf(w) {
 			if many, leads := steps[c.behind]; leads && many == left {
 				moves = append(moves, c.move)
 				w = c.behind
