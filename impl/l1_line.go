@@ -1,6 +1,9 @@
 package impl
 
-import "strings"
+import (
+	"slices"
+	"strings"
+)
 
 const MaxCells = 12
 
@@ -193,25 +196,35 @@ func canPlayOn(w string, moves []Move) bool {
 	return IsLine(w) && len(moves) <= maxMoves
 }
 
-// playOn makes moves, each by a function that fails if it cannot be made, as long as they can be; it returns the line behind these, and how many they are.
-func playOn(w string, moves []Move, makeOne func(string, Move) (string, bool)) (string, int) {
+// playOn makes moves on a line or a board, each by a function that fails if it cannot be made, as long as they can be; it returns what is behind these, and how many they are.
+func playOn[L any](line L, moves []Move, makeOne func(L, Move) (L, bool)) (L, int) {
 	for k, m := range moves {
-		behind, ok := makeOne(w, m)
+		behind, ok := makeOne(line, m)
 		if !ok {
-			return w, k
+			return line, k
 		}
-		w = behind
+		line = behind
 	}
-	return w, len(moves)
+	return line, len(moves)
 }
 
 // playAll fails if one of the moves cannot be made.
-func playAll(w string, moves []Move, makeOne func(string, Move) (string, bool)) (string, bool) {
-	behind, made := playOn(w, moves, makeOne)
+func playAll[L any](line L, moves []Move, makeOne func(L, Move) (L, bool)) (L, bool) {
+	behind, made := playOn(line, moves, makeOne)
 	if made < len(moves) {
-		return "", false
+		var none L
+		return none, false
 	}
 	return behind, true
+}
+
+// moveThatFails fails if all moves can be made.
+func moveThatFails[L any](line L, moves []Move, makeOne func(L, Move) (L, bool)) (int, bool) {
+	_, made := playOn(line, moves, makeOne)
+	if made == len(moves) {
+		return 0, false
+	}
+	return made, true
 }
 
 // PlayMoves returns the line behind all moves, one after the other. It fails if one of them cannot be made.
@@ -227,11 +240,7 @@ func MoveThatFails(w string, moves []Move) (int, bool) {
 	if !canPlayOn(w, moves) {
 		return 0, false
 	}
-	_, made := playOn(w, moves, MakeMove)
-	if made == len(moves) {
-		return 0, false
-	}
-	return made, true
+	return moveThatFails(w, moves, MakeMove)
 }
 
 func otherSign(sign byte) byte {
@@ -244,16 +253,28 @@ func otherSign(sign byte) byte {
 	return sign
 }
 
+// withOtherSigns tells a text with toads and frogs exchanged.
+func withOtherSigns(text string) string {
+	signs := []byte(text)
+	for k, sign := range signs {
+		signs[k] = otherSign(sign)
+	}
+	return string(signs)
+}
+
+// backwards tells a line from its last cell on, toads and frogs being kept: who moves there takes a move back here.
+func backwards(w string) string {
+	signs := []byte(w)
+	slices.Reverse(signs)
+	return string(signs)
+}
+
 // OtherLine returns the line from the other side, told backwards with toads and frogs exchanged.
 func OtherLine(w string) (string, bool) {
 	if !IsLine(w) {
 		return "", false
 	}
-	signs := make([]byte, len(w))
-	for cell := range len(w) {
-		signs[len(w)-1-cell] = otherSign(w[cell])
-	}
-	return string(signs), true
+	return backwards(withOtherSigns(w)), true
 }
 
 // WayToGo returns how many cells all toads and frogs together have to go from here to the LastLine, each toad as many cells as it is left of its place there, with - if it is to the right, frogs the other way round.

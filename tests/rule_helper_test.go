@@ -20,11 +20,21 @@ func ruleNamed(text string) impl.Rule {
 	return impl.Rule{Own: strings.Contains(text, "o"), Back: strings.Contains(text, "b"), Long: strings.Contains(text, "l")}
 }
 
+// numberNamed returns the number that some digits tell.
+func numberNamed(digits string) int {
+	n := 0
+	for _, digit := range digits {
+		n = 10*n + int(digit-'0')
+	}
+	return n
+}
+
 // movesNamed returns the moves of a text like "1-2 3-2".
 func movesNamed(text string) []impl.Move {
 	var moves []impl.Move
 	for _, m := range strings.Fields(text) {
-		moves = append(moves, impl.Move{From: int(m[0] - '0'), To: int(m[2] - '0')})
+		from, to, _ := strings.Cut(m, "-")
+		moves = append(moves, impl.Move{From: numberNamed(from), To: numberNamed(to)})
 	}
 	return moves
 }
